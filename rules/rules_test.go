@@ -1,0 +1,121 @@
+// Package rules has tests alone: they check that the program keeps to the rules of its language, and uses what its chapters ask for.
+package rules
+
+import (
+	"go/ast"
+	"go/parser"
+	"go/token"
+	"os"
+	"path/filepath"
+	"strconv"
+	"strings"
+	"testing"
+)
+
+// waysOf has, for each package that is built, the words of its chapter's section Ways.
+var waysOf = map[string]string{
+	"whole": "label closure method-value method-expression embedding promoted array function-field",
+}
+
+// TestWays checks that the packages have what their chapters ask for.
+func TestWays(t *testing.T) {
+	for face, words := range waysOf {
+		miss, err := WaysMissing("..", "verdigris", []string{face}, strings.Fields(words))
+		if err != nil {
+			t.Fatal(err)
+		}
+		for _, m := range miss {
+			t.Errorf("%s: way missing: %s", face, m)
+		}
+	}
+}
+
+const allowedImports = " bytes cmp container/heap errors iter maps math math/bits slices sort strconv strings sync sync/atomic unicode unicode/utf8 "
+
+const longestFunction = 60
+
+// sources yields all files of the program that are no tests.
+func sources(t *testing.T) map[string]*ast.File {
+	names, err := filepath.Glob("../*/*.go")
+	if err != nil {
+		t.Fatal(err)
+	}
+	out := map[string]*ast.File{}
+	for _, name := range names {
+		if strings.HasSuffix(name, "_test.go") || strings.HasPrefix(name, "../sharedtests/") {
+			continue
+		}
+		text, err := os.ReadFile(name)
+		if err != nil {
+			t.Fatal(err)
+		}
+		file, err := parser.ParseFile(fset, name, text, parser.ParseComments)
+		if err != nil {
+			t.Fatal(err)
+		}
+		out[name] = file
+	}
+	return out
+}
+
+var fset = token.NewFileSet()
+
+// TestImports checks that only the allowed packages are imported.
+func TestImports(t *testing.T) {
+	for name, file := range sources(t) {
+		for _, spec := range file.Imports {
+			path, _ := strconv.Unquote(spec.Path.Value)
+			if !strings.HasPrefix(path, "verdigris/") && !strings.Contains(allowedImports, " "+path+" ") {
+				t.Errorf("%s imports %s", name, path)
+			}
+		}
+	}
+}
+
+// TestLengths checks that no function is too long.
+func TestLengths(t *testing.T) {
+	for name, file := range sources(t) {
+		for _, d := range file.Decls {
+			if f, ok := d.(*ast.FuncDecl); ok {
+				if lines := fset.Position(f.End()).Line - fset.Position(f.Pos()).Line + 1; lines > longestFunction {
+					t.Errorf("%s: %s has %d lines", name, f.Name.Name, lines)
+				}
+			}
+		}
+	}
+}
+
+// TestVariables checks that the package level has no variables but tables of literals.
+func TestVariables(t *testing.T) {
+	for name, file := range sources(t) {
+		for _, d := range file.Decls {
+			g, ok := d.(*ast.GenDecl)
+			if !ok || g.Tok != token.VAR {
+				continue
+			}
+			for _, s := range g.Specs {
+				for _, v := range s.(*ast.ValueSpec).Values {
+					if _, ok := v.(*ast.CompositeLit); !ok {
+						t.Errorf("%s: a variable that is no table of literals: %s", name, s.(*ast.ValueSpec).Names[0])
+					}
+				}
+				if len(s.(*ast.ValueSpec).Values) == 0 {
+					t.Errorf("%s: a variable without a value", name)
+				}
+			}
+		}
+	}
+}
+
+// TestDirectives checks that there are neither directives nor build tags.
+func TestDirectives(t *testing.T) {
+	for name, file := range sources(t) {
+		for _, group := range file.Comments {
+			for _, c := range group.List {
+				if strings.HasPrefix(c.Text, "//go:") || strings.HasPrefix(c.Text, "// +build") {
+					t.Errorf("%s: %s", name, c.Text)
+				}
+			}
+		}
+	}
+}
