@@ -15,6 +15,7 @@ import (
 // waysOf has, for each package that is built, the words of its chapter's section Ways.
 var waysOf = map[string]string{
 	"whole": "label closure method-value method-expression embedding promoted array function-field",
+	"frac":  "embedding promoted method-expression generic-function closure variadic range-string rune label",
 }
 
 // TestWays checks that the packages have what their chapters ask for.
