@@ -16,6 +16,7 @@ import (
 var waysOf = map[string]string{
 	"whole": "label closure method-value method-expression embedding promoted array function-field",
 	"frac":  "embedding promoted method-expression generic-function closure variadic range-string rune label",
+	"band":  "array variadic function-field struct-compared label closure generic-function",
 }
 
 // TestWays checks that the packages have what their chapters ask for.
