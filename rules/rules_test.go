@@ -17,6 +17,7 @@ var waysOf = map[string]string{
 	"whole": "label closure method-value method-expression embedding promoted array function-field",
 	"frac":  "embedding promoted method-expression generic-function closure variadic range-string rune label",
 	"band":  "array variadic function-field struct-compared label closure generic-function",
+	"power": "closure generic-function range-function embedding promoted method-value label",
 }
 
 // TestWays checks that the packages have what their chapters ask for.
