@@ -14,10 +14,11 @@ import (
 
 // waysOf has, for each package that is built, the words of its chapter's section Ways.
 var waysOf = map[string]string{
-	"whole": "label closure method-value method-expression embedding promoted array function-field",
-	"frac":  "embedding promoted method-expression generic-function closure variadic range-string rune label",
-	"band":  "array variadic function-field struct-compared label closure generic-function",
-	"power": "closure generic-function range-function embedding promoted method-value label",
+	"whole":  "label closure method-value method-expression embedding promoted array function-field",
+	"frac":   "embedding promoted method-expression generic-function closure variadic range-string rune label",
+	"band":   "array variadic function-field struct-compared label closure generic-function",
+	"power":  "closure generic-function range-function embedding promoted method-value label",
+	"matrix": "range-function closure embedding promoted method-value generic-function copy label",
 }
 
 // TestWays checks that the packages have what their chapters ask for.
