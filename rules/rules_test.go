@@ -19,6 +19,7 @@ var waysOf = map[string]string{
 	"band":   "array variadic function-field struct-compared label closure generic-function",
 	"power":  "closure generic-function range-function embedding promoted method-value label",
 	"matrix": "range-function closure embedding promoted method-value generic-function copy label",
+	"least":  "closure variadic label embedding promoted method-value generic-function copy",
 }
 
 // TestWays checks that the packages have what their chapters ask for.
