@@ -20,6 +20,7 @@ var waysOf = map[string]string{
 	"power":  "closure generic-function range-function embedding promoted method-value label",
 	"matrix": "range-function closure embedding promoted method-value generic-function copy label",
 	"least":  "closure variadic label embedding promoted method-value generic-function copy",
+	"octet":  "generic-function array range-string rune label struct-compared function-field closure",
 }
 
 // TestWays checks that the packages have what their chapters ask for.
