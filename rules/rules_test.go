@@ -21,6 +21,7 @@ var waysOf = map[string]string{
 	"matrix": "range-function closure embedding promoted method-value generic-function copy label",
 	"least":  "closure variadic label embedding promoted method-value generic-function copy",
 	"octet":  "generic-function array range-string rune label struct-compared function-field closure",
+	"digest": "array function-field closure embedding promoted method-value range-function array-compared",
 }
 
 // TestWays checks that the packages have what their chapters ask for.
