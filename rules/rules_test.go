@@ -22,6 +22,7 @@ var waysOf = map[string]string{
 	"least":  "closure variadic label embedding promoted method-value generic-function copy",
 	"octet":  "generic-function array range-string rune label struct-compared function-field closure",
 	"digest": "array function-field closure embedding promoted method-value range-function array-compared",
+	"curve":  "method-expression array range-function label embedding promoted variadic generic-function closure",
 }
 
 // TestWays checks that the packages have what their chapters ask for.
