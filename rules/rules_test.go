@@ -23,6 +23,7 @@ var waysOf = map[string]string{
 	"octet":  "generic-function array range-string rune label struct-compared function-field closure",
 	"digest": "array function-field closure embedding promoted method-value range-function array-compared",
 	"curve":  "method-expression array range-function label embedding promoted variadic generic-function closure",
+	"grid":   "range-function label embedding promoted method-value variadic generic-function closure array-compared",
 }
 
 // TestWays checks that the packages have what their chapters ask for.
