@@ -14,16 +14,17 @@ import (
 
 // waysOf has, for each package that is built, the words of its chapter's section Ways.
 var waysOf = map[string]string{
-	"whole":  "label closure method-value method-expression embedding promoted array function-field",
-	"frac":   "embedding promoted method-expression generic-function closure variadic range-string rune label",
-	"band":   "array variadic function-field struct-compared label closure generic-function",
-	"power":  "closure generic-function range-function embedding promoted method-value label",
-	"matrix": "range-function closure embedding promoted method-value generic-function copy label",
-	"least":  "closure variadic label embedding promoted method-value generic-function copy",
-	"octet":  "generic-function array range-string rune label struct-compared function-field closure",
-	"digest": "array function-field closure embedding promoted method-value range-function array-compared",
-	"curve":  "method-expression array range-function label embedding promoted variadic generic-function closure",
-	"grid":   "range-function label embedding promoted method-value variadic generic-function closure array-compared",
+	"whole":   "label closure method-value method-expression embedding promoted array function-field",
+	"frac":    "embedding promoted method-expression generic-function closure variadic range-string rune label",
+	"band":    "array variadic function-field struct-compared label closure generic-function",
+	"power":   "closure generic-function range-function embedding promoted method-value label",
+	"matrix":  "range-function closure embedding promoted method-value generic-function copy label",
+	"least":   "closure variadic label embedding promoted method-value generic-function copy",
+	"octet":   "generic-function array range-string rune label struct-compared function-field closure",
+	"digest":  "array function-field closure embedding promoted method-value range-function array-compared",
+	"curve":   "method-expression array range-function label embedding promoted variadic generic-function closure",
+	"grid":    "range-function label embedding promoted method-value variadic generic-function closure array-compared",
+	"simplex": "range-function label embedding promoted closure variadic generic-function array method-value",
 }
 
 // TestWays checks that the packages have what their chapters ask for.
