@@ -25,6 +25,7 @@ var waysOf = map[string]string{
 	"curve":   "method-expression array range-function label embedding promoted variadic generic-function closure",
 	"grid":    "range-function label embedding promoted method-value variadic generic-function closure array-compared",
 	"simplex": "range-function label embedding promoted closure variadic generic-function array method-value",
+	"program": "generic-type method-expression closure map embedding promoted panic recover defer variadic label",
 }
 
 // TestWays checks that the packages have what their chapters ask for.
