@@ -26,6 +26,7 @@ var waysOf = map[string]string{
 	"grid":    "range-function label embedding promoted method-value variadic generic-function closure array-compared",
 	"simplex": "range-function label embedding promoted closure variadic generic-function array method-value",
 	"program": "generic-type method-expression closure map embedding promoted panic recover defer variadic label",
+	"element": "method-expression array embedding promoted generic-function closure label variadic",
 }
 
 // TestWays checks that the packages have what their chapters ask for.
