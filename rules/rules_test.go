@@ -27,6 +27,7 @@ var waysOf = map[string]string{
 	"simplex": "range-function label embedding promoted closure variadic generic-function array method-value",
 	"program": "generic-type method-expression closure map embedding promoted panic recover defer variadic label",
 	"element": "method-expression array embedding promoted generic-function closure label variadic",
+	"chain":   "range-function label embedding promoted generic-function closure variadic three-index",
 }
 
 // TestWays checks that the packages have what their chapters ask for.
