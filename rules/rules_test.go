@@ -28,6 +28,7 @@ var waysOf = map[string]string{
 	"program": "generic-type method-expression closure map embedding promoted panic recover defer variadic label",
 	"element": "method-expression array embedding promoted generic-function closure label variadic",
 	"chain":   "range-function label embedding promoted generic-function closure variadic three-index",
+	"tag":     "closure map embedding promoted panic recover defer generic-function label method-expression",
 }
 
 // TestWays checks that the packages have what their chapters ask for.
