@@ -29,6 +29,7 @@ var waysOf = map[string]string{
 	"element": "method-expression array embedding promoted generic-function closure label variadic",
 	"chain":   "range-function label embedding promoted generic-function closure variadic three-index",
 	"tag":     "closure map embedding promoted panic recover defer generic-function label method-expression",
+	"profile": "closure array label embedding promoted map range-function panic recover defer array-compared",
 }
 
 // TestWays checks that the packages have what their chapters ask for.
