@@ -30,6 +30,7 @@ var waysOf = map[string]string{
 	"chain":   "range-function label embedding promoted generic-function closure variadic three-index",
 	"tag":     "closure map embedding promoted panic recover defer generic-function label method-expression",
 	"profile": "closure array label embedding promoted map range-function panic recover defer array-compared",
+	"slope":   "map closure embedding promoted panic generic-function defer recover",
 }
 
 // TestWays checks that the packages have what their chapters ask for.
