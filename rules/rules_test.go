@@ -31,6 +31,7 @@ var waysOf = map[string]string{
 	"tag":     "closure map embedding promoted panic recover defer generic-function label method-expression",
 	"profile": "closure array label embedding promoted map range-function panic recover defer array-compared",
 	"slope":   "map closure embedding promoted panic generic-function defer recover",
+	"algebra": "method-expression array embedding promoted range-function label",
 }
 
 // TestWays checks that the packages have what their chapters ask for.
