@@ -32,6 +32,7 @@ var waysOf = map[string]string{
 	"profile": "closure array label embedding promoted map range-function panic recover defer array-compared",
 	"slope":   "map closure embedding promoted panic generic-function defer recover",
 	"algebra": "method-expression array embedding promoted range-function label",
+	"sixteen": "range-function embedding promoted panic generic-function defer recover",
 }
 
 // TestWays checks that the packages have what their chapters ask for.
