@@ -33,6 +33,7 @@ var waysOf = map[string]string{
 	"slope":   "map closure embedding promoted panic generic-function defer recover",
 	"algebra": "method-expression array embedding promoted range-function label",
 	"sixteen": "range-function embedding promoted panic generic-function defer recover",
+	"bake":    "range-function closure panic generic-function defer recover",
 }
 
 // TestWays checks that the packages have what their chapters ask for.
