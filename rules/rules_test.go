@@ -34,6 +34,7 @@ var waysOf = map[string]string{
 	"algebra": "method-expression array embedding promoted range-function label",
 	"sixteen": "range-function embedding promoted panic generic-function defer recover",
 	"bake":    "range-function closure panic generic-function defer recover",
+	"undo":    "range-function generic-function closure panic defer recover",
 }
 
 // TestWays checks that the packages have what their chapters ask for.
