@@ -35,6 +35,7 @@ var waysOf = map[string]string{
 	"sixteen": "range-function embedding promoted panic generic-function defer recover",
 	"bake":    "range-function closure panic generic-function defer recover",
 	"undo":    "range-function generic-function closure panic defer recover",
+	"locate":  "range-function array closure label",
 }
 
 // TestWays checks that the packages have what their chapters ask for.
