@@ -36,6 +36,7 @@ var waysOf = map[string]string{
 	"bake":    "range-function closure panic generic-function defer recover",
 	"undo":    "range-function generic-function closure panic defer recover",
 	"locate":  "range-function array closure label",
+	"light":   "constant-table range-function closure panic defer recover generic-function variadic",
 }
 
 // TestWays checks that the packages have what their chapters ask for.
