@@ -37,18 +37,22 @@ var waysOf = map[string]string{
 	"undo":    "range-function generic-function closure panic defer recover",
 	"locate":  "range-function array closure label",
 	"light":   "constant-table range-function closure panic defer recover generic-function variadic",
+	"lab":     "closure function-field panic defer recover generic-function method-expression array",
 }
 
 // TestWays checks that the packages have what their chapters ask for.
 func TestWays(t *testing.T) {
 	for face, words := range waysOf {
-		miss, err := WaysMissing("..", "verdigris", []string{face}, strings.Fields(words))
-		if err != nil {
-			t.Fatal(err)
-		}
-		for _, m := range miss {
-			t.Errorf("%s: way missing: %s", face, m)
-		}
+		t.Run(face, func(t *testing.T) {
+			t.Parallel()
+			miss, err := WaysMissing("..", "verdigris", []string{face}, strings.Fields(words))
+			if err != nil {
+				t.Fatal(err)
+			}
+			for _, m := range miss {
+				t.Errorf("way missing: %s", m)
+			}
+		})
 	}
 }
 
