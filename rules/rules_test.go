@@ -38,6 +38,7 @@ var waysOf = map[string]string{
 	"locate":  "range-function array closure label",
 	"light":   "constant-table range-function closure panic defer recover generic-function variadic",
 	"lab":     "closure function-field panic defer recover generic-function method-expression array",
+	"adapt":   "constant-table array closure panic defer recover generic-function embedding promoted range-integer",
 }
 
 // TestWays checks that the packages have what their chapters ask for.
