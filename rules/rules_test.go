@@ -40,6 +40,7 @@ var waysOf = map[string]string{
 	"lab":      "closure function-field panic defer recover generic-function method-expression array",
 	"adapt":    "constant-table array closure panic defer recover generic-function embedding promoted range-integer",
 	"spectrum": "constant-table array closure range-integer panic defer recover generic-function variadic",
+	"differ":   "method-expression map embedding promoted variadic panic defer recover generic-function closure",
 }
 
 // TestWays checks that the packages have what their chapters ask for.
