@@ -41,6 +41,7 @@ var waysOf = map[string]string{
 	"adapt":    "constant-table array closure panic defer recover generic-function embedding promoted range-integer",
 	"spectrum": "constant-table array closure range-integer panic defer recover generic-function variadic",
 	"differ":   "method-expression map embedding promoted variadic panic defer recover generic-function closure",
+	"view":     "constant-table array embedding promoted panic defer recover generic-function closure range-integer variadic",
 }
 
 // TestWays checks that the packages have what their chapters ask for.
