@@ -42,6 +42,7 @@ var waysOf = map[string]string{
 	"spectrum": "constant-table array closure range-integer panic defer recover generic-function variadic",
 	"differ":   "method-expression map embedding promoted variadic panic defer recover generic-function closure",
 	"view":     "constant-table array embedding promoted panic defer recover generic-function closure range-integer variadic",
+	"appear":   "generic-function closure embedding promoted panic defer recover method-value range-integer",
 }
 
 // TestWays checks that the packages have what their chapters ask for.
