@@ -43,6 +43,7 @@ var waysOf = map[string]string{
 	"differ":   "method-expression map embedding promoted variadic panic defer recover generic-function closure",
 	"view":     "constant-table array embedding promoted panic defer recover generic-function closure range-integer variadic",
 	"appear":   "generic-function closure embedding promoted panic defer recover method-value range-integer",
+	"regain":   "generic-function closure label embedding promoted panic defer recover constant-table array copy",
 }
 
 // TestWays checks that the packages have what their chapters ask for.
