@@ -44,6 +44,7 @@ var waysOf = map[string]string{
 	"view":     "constant-table array embedding promoted panic defer recover generic-function closure range-integer variadic",
 	"appear":   "generic-function closure embedding promoted panic defer recover method-value range-integer",
 	"regain":   "generic-function closure label embedding promoted panic defer recover constant-table array copy",
+	"patch":    "range-function label map array-compared embedding promoted panic defer recover",
 }
 
 // TestWays checks that the packages have what their chapters ask for.
