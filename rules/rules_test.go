@@ -45,6 +45,7 @@ var waysOf = map[string]string{
 	"appear":   "generic-function closure embedding promoted panic defer recover method-value range-integer",
 	"regain":   "generic-function closure label embedding promoted panic defer recover constant-table array copy",
 	"patch":    "range-function label map array-compared embedding promoted panic defer recover",
+	"fit":      "closure map method-value embedding promoted generic-function array label",
 }
 
 // TestWays checks that the packages have what their chapters ask for.
