@@ -46,6 +46,7 @@ var waysOf = map[string]string{
 	"regain":   "generic-function closure label embedding promoted panic defer recover constant-table array copy",
 	"patch":    "range-function label map array-compared embedding promoted panic defer recover",
 	"fit":      "closure map method-value embedding promoted generic-function array label",
+	"robust":   "generic-function closure embedding promoted method-value label map copy",
 }
 
 // TestWays checks that the packages have what their chapters ask for.
