@@ -47,6 +47,7 @@ var waysOf = map[string]string{
 	"patch":    "range-function label map array-compared embedding promoted panic defer recover",
 	"fit":      "closure map method-value embedding promoted generic-function array label",
 	"robust":   "generic-function closure embedding promoted method-value label map copy",
+	"cross":    "method-value embedding promoted range-function copy generic-function closure label map",
 }
 
 // TestWays checks that the packages have what their chapters ask for.
