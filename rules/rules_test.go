@@ -48,6 +48,7 @@ var waysOf = map[string]string{
 	"fit":      "closure map method-value embedding promoted generic-function array label",
 	"robust":   "generic-function closure embedding promoted method-value label map copy",
 	"cross":    "method-value embedding promoted range-function copy generic-function closure label map",
+	"mesh":     "range-function map array embedding promoted",
 }
 
 // TestWays checks that the packages have what their chapters ask for.
