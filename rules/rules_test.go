@@ -49,6 +49,7 @@ var waysOf = map[string]string{
 	"robust":   "generic-function closure embedding promoted method-value label map copy",
 	"cross":    "method-value embedding promoted range-function copy generic-function closure label map",
 	"mesh":     "range-function map array embedding promoted",
+	"inside":   "closure range-function panic generic-function defer recover",
 }
 
 // TestWays checks that the packages have what their chapters ask for.
