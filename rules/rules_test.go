@@ -50,6 +50,7 @@ var waysOf = map[string]string{
 	"cross":    "method-value embedding promoted range-function copy generic-function closure label map",
 	"mesh":     "range-function map array embedding promoted",
 	"inside":   "closure range-function panic generic-function defer recover",
+	"shell":    "range-function map array closure panic defer recover",
 }
 
 // TestWays checks that the packages have what their chapters ask for.
