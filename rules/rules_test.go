@@ -51,6 +51,7 @@ var waysOf = map[string]string{
 	"mesh":     "range-function map array embedding promoted",
 	"inside":   "closure range-function panic generic-function defer recover",
 	"shell":    "range-function map array closure panic defer recover",
+	"intent":   "embedding promoted closure panic generic-function defer recover",
 }
 
 // TestWays checks that the packages have what their chapters ask for.
