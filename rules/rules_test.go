@@ -52,6 +52,7 @@ var waysOf = map[string]string{
 	"inside":   "closure range-function panic generic-function defer recover",
 	"shell":    "range-function map array closure panic defer recover",
 	"intent":   "embedding promoted closure panic generic-function defer recover",
+	"ink":      "array-compared closure range-integer generic-function method-value variadic",
 }
 
 // TestWays checks that the packages have what their chapters ask for.
