@@ -53,6 +53,7 @@ var waysOf = map[string]string{
 	"shell":    "range-function map array closure panic defer recover",
 	"intent":   "embedding promoted closure panic generic-function defer recover",
 	"ink":      "array-compared closure range-integer generic-function method-value variadic",
+	"devlink":  "range-function copy embedding promoted panic defer recover generic-function array closure",
 }
 
 // TestWays checks that the packages have what their chapters ask for.
