@@ -54,6 +54,7 @@ var waysOf = map[string]string{
 	"intent":   "embedding promoted closure panic generic-function defer recover",
 	"ink":      "array-compared closure range-integer generic-function method-value variadic",
 	"devlink":  "range-function copy embedding promoted panic defer recover generic-function array closure",
+	"trip":     "range-function label embedding promoted method-value panic defer recover generic-function variadic",
 }
 
 // TestWays checks that the packages have what their chapters ask for.
