@@ -56,6 +56,7 @@ var waysOf = map[string]string{
 	"devlink":  "range-function copy embedding promoted panic defer recover generic-function array closure",
 	"trip":     "range-function label embedding promoted method-value panic defer recover generic-function variadic",
 	"image":    "range-function label embedding promoted closure map struct-compared variadic generic-function",
+	"convert":  "go waitgroup range-function label embedding promoted array closure generic-function",
 }
 
 // TestWays checks that the packages have what their chapters ask for.
