@@ -57,6 +57,7 @@ var waysOf = map[string]string{
 	"trip":     "range-function label embedding promoted method-value panic defer recover generic-function variadic",
 	"image":    "range-function label embedding promoted closure map struct-compared variadic generic-function",
 	"convert":  "go waitgroup range-function label embedding promoted array closure generic-function",
+	"proof":    "map range-function label embedding promoted generic-function closure variadic array",
 }
 
 // TestWays checks that the packages have what their chapters ask for.
