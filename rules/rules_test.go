@@ -58,6 +58,7 @@ var waysOf = map[string]string{
 	"image":    "range-function label embedding promoted closure map struct-compared variadic generic-function",
 	"convert":  "go waitgroup range-function label embedding promoted array closure generic-function",
 	"proof":    "map range-function label embedding promoted generic-function closure variadic array",
+	"console":  "method-expression map embedding promoted panic generic-function defer recover",
 }
 
 // TestWays checks that the packages have what their chapters ask for.
