@@ -52,7 +52,7 @@ var waysOf = map[string]string{
 	"inside":   "closure range-function panic generic-function defer recover",
 	"shell":    "range-function map array closure panic defer recover",
 	"intent":   "embedding promoted closure panic generic-function defer recover",
-	"ink":      "array-compared closure range-integer generic-function method-value variadic",
+	"ink":      "array array-compared closure range-integer generic-function method-value variadic",
 	"devlink":  "range-function copy embedding promoted panic defer recover generic-function array closure",
 	"trip":     "range-function label embedding promoted method-value panic defer recover generic-function variadic",
 	"image":    "range-function label embedding promoted closure map struct-compared variadic generic-function",
