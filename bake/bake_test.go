@@ -108,6 +108,9 @@ func TestBakeErrors(t *testing.T) {
 			t.Errorf("%d: %v, %v, %d", i, g, bound, e)
 		}
 	}
+	if g, _, e := Bake(chainOf(4, matrix([]int{0}, []int{250000, 250000, 250000, 250000})), []int{8, 8, 8, 8}); len(g.Data) != 4096 || e != api.OK {
+		t.Errorf("Bake: %d entries, %d", len(g.Data), e)
+	}
 	if g, _, e := Bake(chainOf(1, double, curves(tent)), []int{9}); g.Out != 1 || e != api.OK {
 		t.Errorf("Bake: %v, %d", g, e)
 	}

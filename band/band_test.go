@@ -358,6 +358,15 @@ func TestArguments(t *testing.T) {
 			t.Errorf("Clamp(%v): %v, %d", x, got, e)
 		}
 	}
+	// The least and the greatest numbers, and a product of just 65 bits.
+	if got, e := Scale(api.Band{Lo: 1, Hi: 2}, -api.MaxRatio, api.MaxRatio); got != (api.Band{Lo: -2, Hi: -1}) || e != api.OK {
+		t.Errorf("Scale: %v, %d", got, e)
+	}
+	for _, n := range []int{19, 20, 36, 37, 40} {
+		if got, e := Scale(api.Band{Lo: 0, Hi: top}, n, 1); got != (api.Band{}) || e != api.ErrBig {
+			t.Errorf("Scale(%d): %v, %d", n, got, e)
+		}
+	}
 	if got, e := Scale(api.Band{Lo: -top, Hi: top}, api.MaxRatio, api.MaxRatio); got != (api.Band{Lo: -top, Hi: top}) || e != api.OK {
 		t.Errorf("Scale: %v, %d", got, e)
 	}

@@ -127,6 +127,8 @@ func TestEval(t *testing.T) {
 		{example, "1/2", "", api.ErrArg},
 		{example, "1/2 1 1", "", api.ErrArg},
 		{example, "", "", api.ErrArg},
+		{chain(3), "0 1", "", api.ErrArg},
+		{chain(3), "0 1 1 1", "", api.ErrArg},
 		{chain(2, matrix, roots), "1/2 1/2", "", api.ErrForm},
 	} {
 		if got, e := Eval(x.c, fracs(x.x)); !slices.Equal(got, fracs(x.want)) || e != x.e {

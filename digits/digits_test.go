@@ -135,7 +135,7 @@ func TestShifts(t *testing.T) {
 }
 
 func TestNoNumbers(t *testing.T) {
-	for _, text := range []string{"", "-", "-0", "00", "01", "-01", "+1", "1 ", "1a", "12345678901234567890x", "x2345678901234567890", "--1", "\xff"} {
+	for _, text := range []string{"", "-", "-0", "00", "01", "-01", "+1", "1 ", "1a", "1:", "1/", ":", "12345678901234567890x", "x2345678901234567890", "--1", "\xff"} {
 		if _, ok := Read(text); ok {
 			t.Errorf("Read(%q) is a number", text)
 		}

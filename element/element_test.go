@@ -125,6 +125,8 @@ func TestNumbersOfElements(t *testing.T) {
 	}{
 		{matrix, 2, 2, true}, {curves, 2, 2, true}, {table, 2, 1, true}, {half, 2, 1, true}, {wide, 4, 1, true},
 		{api.Element{Kind: api.ElCurves, Curves: []api.Curve{identity, root, falling}}, 3, 3, false},
+		{api.Element{Kind: api.ElCurves, Curves: []api.Curve{falling}}, 1, 1, true},
+		{api.Element{Kind: api.ElCurves, Curves: []api.Curve{falling, falling, falling, identity}}, 4, 4, true},
 	} {
 		if e := Check(x.x); e != api.OK {
 			t.Errorf("Check of %d: %d", i, e)
@@ -192,6 +194,7 @@ func TestEval(t *testing.T) {
 		{matrix, []api.Frac{fr("1"), {}}, api.ErrFrac}, {curves, []api.Frac{fr("1"), {N: "2", D: "2"}}, api.ErrFrac}, {table, make([]api.Frac, 2), api.ErrFrac}, {half, make([]api.Frac, 2), api.ErrFrac},
 		{api.Element{Kind: api.ElCurves, Curves: []api.Curve{identity, root}}, fracs("1 1/4"), api.ErrForm},
 		{api.Element{Kind: api.ElCurves, Curves: []api.Curve{root, falling}}, []api.Frac{fr("1"), long}, api.ErrForm},
+		{api.Element{Kind: api.ElCurves, Curves: []api.Curve{root, falling}}, []api.Frac{fr("1"), {}}, api.ErrFrac},
 		{api.Element{Kind: api.ElCurves, Curves: []api.Curve{{Kind: api.CuTable, Table: []int{0, 1}}, root}}, []api.Frac{long, fr("1")}, api.ErrBig},
 		{matrix, []api.Frac{fr("1"), long}, api.ErrBig}, {table, []api.Frac{fr("1"), long}, api.ErrBig}, {half, []api.Frac{fr("1"), long}, api.ErrBig},
 		{ten, []api.Frac{big, big}, api.ErrBig},
@@ -222,6 +225,7 @@ func TestBands(t *testing.T) {
 		{matrix, []api.Band{b(0, 0), b(1, 0)}, nil, api.ErrBand},
 		{table, []api.Band{b(0, 0), b(1, 0)}, nil, api.ErrBand},
 		{curves, nil, nil, api.ErrArg},
+		{api.Element{Kind: api.ElMatrix, Rows: [][]int{{1000000000, 0}}, Offset: []int{0}}, []api.Band{b(0, 1001*one), b(1, 0)}, nil, api.ErrBand},
 		{matrix, []api.Band{b(-api.MaxBand, 0), b(api.MaxBand, api.MaxBand)}, nil, api.ErrBig},
 		{api.Element{Kind: api.ElMatrix, Rows: [][]int{{1000000000}}, Offset: []int{0}}, []api.Band{b(0, 1001*one)}, nil, api.ErrBig},
 	} {

@@ -101,6 +101,9 @@ func TestErrors(t *testing.T) {
 	if h, e := Pick(full, []int{0, 0}); !Same(h, api.Grid{}) || e != api.ErrLong {
 		t.Errorf("Pick: %v, %d", h, e)
 	}
+	if h, e := Pick(example, []int{0, 1, 1, 0}); h.Out != 4 || len(h.Data) != 24 || e != api.OK {
+		t.Errorf("Pick: %v, %d", h, e)
+	}
 	if h, e := Pick(full, []int{0}); !Same(h, full) || e != api.OK {
 		t.Errorf("Pick: %v, %d", h, e)
 	}

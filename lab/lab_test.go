@@ -115,7 +115,7 @@ func TestFromLab(t *testing.T) {
 	}{
 		{tri("42 0 0"), grey, tri("1/8 1/8 1/8"), api.OK}, {tri("100 0 0"), tri("2 1/3 5"), tri("2 1/3 5"), api.OK}, {tri("42 125 50"), grey, tri("27/64 1/8 1/64"), api.OK}, {tri("0 0 0"), grey, tri("0 0 0"), api.OK}, {tri("8 0 0"), grey, tri("216/24389 216/24389 216/24389"), api.OK}, {tri("4 0 0"), grey, tri("108/24389 108/24389 108/24389"), api.OK},
 		{tri("-16 0 0"), grey, api.Tri{}, api.ErrFail}, {tri("42 -400 0"), grey, api.Tri{}, api.ErrFail}, {tri("42 0 100"), grey, api.Tri{}, api.ErrFail}, {tri("-1 100 -100"), grey, api.Tri{}, api.ErrFail},
-		{api.Tri{}, api.Tri{}, api.Tri{}, api.ErrFrac}, {tri("-16 0 0"), tri("1 0 1"), api.Tri{}, api.ErrArg}, {tri("-16 0 0"), api.Tri{}, api.Tri{}, api.ErrFrac},
+		{api.Tri{}, api.Tri{}, api.Tri{}, api.ErrFrac}, {api.Tri{}, tri("1 0 1"), api.Tri{}, api.ErrFrac}, {api.Tri{huge, fr("1"), {}}, grey, api.Tri{}, api.ErrFrac}, {tri("-16 0 0"), tri("1 0 1"), api.Tri{}, api.ErrArg}, {tri("-16 0 0"), api.Tri{}, api.Tri{}, api.ErrFrac},
 		{api.Tri{huge, fr("0"), fr("0")}, grey, api.Tri{}, api.ErrBig}, {tri("1000 0 0"), api.Tri{long, fr("1"), fr("1")}, api.Tri{}, api.ErrBig},
 	} {
 		if got, e := FromLab(x.lab, x.white); got != x.want || e != x.e {
@@ -251,7 +251,7 @@ func TestCode(t *testing.T) {
 	for i, x := range []struct {
 		t        api.Tri
 		enc, dec api.Errno
-	}{{api.Tri{}, api.ErrFrac, api.ErrFrac}, {api.Tri{fr("1"), fr("1"), {N: "2", D: "2"}}, api.ErrFrac, api.ErrFrac}, {api.Tri{long, fr("1"), fr("1")}, api.ErrBig, api.OK}, {api.Tri{huge, fr("1"), fr("1")}, api.OK, api.ErrBig}} {
+	}{{api.Tri{}, api.ErrFrac, api.ErrFrac}, {api.Tri{fr("1"), fr("1"), {N: "2", D: "2"}}, api.ErrFrac, api.ErrFrac}, {api.Tri{long, fr("1"), {}}, api.ErrFrac, api.ErrFrac}, {api.Tri{huge, fr("1"), {}}, api.ErrFrac, api.ErrFrac}, {api.Tri{long, fr("1"), fr("1")}, api.ErrBig, api.OK}, {api.Tri{huge, fr("1"), fr("1")}, api.OK, api.ErrBig}} {
 		if got, e := Encode(x.t); e != x.enc || e != api.OK && got != (api.Tri{}) {
 			t.Errorf("Encode %d: %v, %d", i, got, e)
 		}

@@ -121,6 +121,7 @@ func TestMade(t *testing.T) {
 		want api.Mat
 		e    api.Errno
 	}{
+		{list("7/2"), mat("7/2"), api.OK},
 		{list("2 3"), mat("2 0;0 3"), api.OK},
 		{list("1/2 0 -3 4"), mat("1/2 0 0 0;0 0 0 0;0 0 -3 0;0 0 0 4"), api.OK},
 		{nil, nil, api.ErrArg},

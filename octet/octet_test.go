@@ -82,6 +82,7 @@ func TestPartAndText(t *testing.T) {
 		{"\x7f", 0, 1, "\x7f", api.OK, "", api.ErrForm},
 		{"a\xff", 0, 2, "a\xff", api.OK, "", api.ErrForm},
 		{"é", 0, 2, "é", api.OK, "", api.ErrForm},
+		{"a\x00Z", 0, 3, "a\x00Z", api.OK, "", api.ErrForm},
 		{"a\x00\x00\x01", 0, 4, "a\x00\x00\x01", api.OK, "", api.ErrForm},
 	} {
 		if got, e := Part(x.s, x.at, x.n); got != x.part || e != x.e {

@@ -127,8 +127,12 @@ func valid() []api.Profile {
 		p.Version = 2
 		p.Tags = append(p.Tags, api.Tag{Sign: "more", Kind: api.TaChain, Chain: api.Chain{In: 1, Elements: []api.Element{{Kind: api.ElCurves, Curves: []api.Curve{{Kind: api.CuFormula, Segments: []api.Segment{{Till: 1000000, Num: 1, Den: 2}}}}}}}})
 	})
+	many := gray()
+	for i := range 10 {
+		many.Tags = append(many.Tags, text("zzz"+string(rune('a'+i))))
+	}
 	lab := with(link(), func(p *api.Profile) { p.Space, p.Pcs, p.Tags[1] = api.SpLab, api.SpGray, way("link", 3, 1) })
-	return []api.Profile{gray(), printer(), link(), old, lab}
+	return []api.Profile{gray(), printer(), link(), old, lab, many}
 }
 
 // P16.1
@@ -210,8 +214,39 @@ func TestLong(t *testing.T) {
 	if s, e := Bytes(p); s != "" || e != api.ErrLong {
 		t.Errorf("Bytes: %d octets, %d", len(s), e)
 	}
+	checkLongest(t, c)
 	if got, where, e := Parse(strings.Repeat("x", api.MaxProfile+1)); !Same(got, api.Profile{}) || where != 0 || e != api.ErrLong {
 		t.Errorf("Parse: %v, %d, %d", got, where, e)
+	}
+}
+
+// checkLongest checks a profile of just the greatest number of octets, and one with more.
+func checkLongest(t *testing.T, c api.Chain) {
+	less := api.Element{Kind: api.ElGrid, Grid: api.Grid{Size: []int{8, 8, 8, 7}, Out: 1, Data: make([]int, 3584)}}
+	long := func(n int) api.Profile {
+		return with(gray(), func(p *api.Profile) {
+			other := api.Chain{In: 4, Elements: []api.Element{c.Elements[0], c.Elements[1], less}}
+			p.Tags = append(p.Tags, api.Tag{Sign: "more", Kind: api.TaChain, Chain: c}, api.Tag{Sign: "morf", Kind: api.TaChain, Chain: other})
+			for _, sign := range []string{"txt0", "txt1", "txt2", "txt3"} {
+				p.Tags = append(p.Tags, api.Tag{Sign: sign, Kind: api.TaText, Text: strings.Repeat("x", min(n, 199)+1)})
+				n = max(n-199, 0)
+			}
+		})
+	}
+	for n := 400; ; n++ {
+		s, e := Bytes(long(n))
+		if e != api.OK {
+			t.Fatalf("Bytes: %d; none has just %d octets", e, api.MaxProfile)
+		}
+		if len(s) == api.MaxProfile {
+			if got, where, e := Parse(s); !same(got, long(n)) || where != 0 || e != api.OK {
+				t.Errorf("Parse of %d octets: %d, %d", len(s), where, e)
+			}
+			if s, e := Bytes(long(n + 4)); s != "" || e != api.ErrLong {
+				t.Errorf("Bytes: %d octets, %d", len(s), e)
+			}
+			return
+		}
 	}
 }
 

@@ -160,6 +160,8 @@ func TestErrors(t *testing.T) {
 		{half, []api.Frac{fr("1"), {}}, 1, api.ErrFrac},
 		{sign, []api.Frac{{N: "2", D: "2"}}, 1, api.ErrFrac},
 		{square, []api.Frac{long}, 1, api.ErrBig},
+		{square, []api.Frac{long, {}}, 1, api.ErrFrac},
+		{sign, []api.Frac{fr("1"), {N: "2", D: "2"}}, 1, api.ErrFrac},
 	} {
 		if got, e := Run(x.p, x.x, x.out); got != nil || e != x.e {
 			t.Errorf("Run %d: %v, %d", i, got, e)
@@ -178,6 +180,7 @@ func TestErrors(t *testing.T) {
 		{half, make([]api.Band, 2), 2, api.ErrProgram},
 		{half, []api.Band{{}, {Lo: 1}}, 1, api.ErrBand},
 		{square, []api.Band{wide}, 1, api.ErrBig},
+		{square, []api.Band{wide, {Lo: 1}}, 1, api.ErrBand},
 		{[]api.Op{op(api.PuIn, 0), op(api.PuIn, 0), op(api.PuAdd)}, []api.Band{{Lo: 0, Hi: api.MaxBand}}, 1, api.ErrBig},
 	} {
 		if got, e := Bands(x.p, x.x, x.out); got != nil || e != x.e {

@@ -199,6 +199,9 @@ func TestExamples(t *testing.T) {
 	if l, e := Steep(example); len(l) != 1 || !slices.Equal(l[0], []int{52428, 39321}) || e != api.OK {
 		t.Errorf("Steep: %v, %d", l, e)
 	}
+	if l, e := Steep(api.Grid{Size: []int{3}, Out: 1, Data: []int{7, 7, 7}}); len(l) != 1 || !slices.Equal(l[0], []int{0}) || e != api.OK {
+		t.Errorf("Steep: %v, %d", l, e)
+	}
 	if g, e := Refine(example, []int{3, 2}); !grid.Same(g, api.Grid{Size: []int{3, 2}, Out: 1, Data: []int{0, 13107, 13107, 39321, 26214, 65535}}) || e != api.OK {
 		t.Errorf("Refine: %v, %d", g, e)
 	}
@@ -395,6 +398,7 @@ func TestErrors(t *testing.T) {
 		{example, []api.Frac{fr("1"), {}}, api.ErrFrac, api.ErrFrac},
 		{example, []api.Frac{fr("1"), long}, api.ErrBig, api.OK},
 		{coarse, []api.Frac{near}, api.ErrBig, api.ErrBig},
+		{api.Grid{Size: []int{9, 2}, Out: 1, Data: make([]int, 18)}, []api.Frac{near, {}}, api.ErrFrac, api.ErrFrac},
 		{example, []api.Frac{fr("1/13"), {N: "1", D: long.D[1:]}}, api.ErrBig, api.ErrBig},
 	} {
 		base, order, weights, e := Cell(x.g, x.x)

@@ -93,7 +93,7 @@ func TestRun(t *testing.T) {
 		{chainOf(1, half, half), []int{1}, []int{1}, api.OK}, // rounded twice
 		{chainOf(2), []int{5, 6}, []int{5, 6}, api.OK},
 		{chainOf(1, double), []int{1}, nil, api.ErrForm}, {chainOf(1, double), nil, nil, api.ErrForm}, {chainOf(1, curves(root)), []int{1}, nil, api.ErrForm},
-		{chainOf(1, half), []int{65536}, nil, api.ErrArg}, {chainOf(1, half), []int{-1}, nil, api.ErrArg}, {chainOf(1, half), []int{1, 2}, nil, api.ErrArg}, {chainOf(1, half), nil, nil, api.ErrArg},
+		{chainOf(1, half), []int{65536}, nil, api.ErrArg}, {chainOf(1, half), []int{-1}, nil, api.ErrArg}, {chainOf(1, half), []int{1, 2}, nil, api.ErrArg}, {chainOf(1, half), nil, nil, api.ErrArg}, {chainOf(2), []int{5}, nil, api.ErrArg}, {chainOf(2), []int{5, 6, 7}, nil, api.ErrArg}, {chainOf(1), []int{65536}, nil, api.ErrArg}, {chainOf(1), []int{-1}, nil, api.ErrArg},
 		{chainOf(1, near, powers()), []int{1, 2}, nil, api.ErrBig}, {chainOf(2, half), []int{1}, nil, api.ErrChain},
 		{chainOf(1, powers()), []int{1}, nil, api.ErrBig}, {chainOf(1, powers()), []int{65535}, []int{65535}, api.OK},
 	} {
@@ -110,6 +110,12 @@ func TestRun(t *testing.T) {
 	}
 }
 
+// steep is a program whose results have 600 digits, and slopes one more.
+func steep() api.Element {
+	num, again, mul := func(n int) api.Op { return api.Op{Code: api.PuNum, Arg: n} }, api.Op{Code: api.PuCopy}, api.Op{Code: api.PuMul}
+	return program(1, 1, api.Op{Code: api.PuIn}, num(999983), mul, again, again, mul, again, again, mul, again, mul, again, mul, again, mul, again, again, mul, mul, mul, mul, num(999990), mul)
+}
+
 // P19.3
 func TestBound(t *testing.T) {
 	spread := matrix([]int{0, 0}, []int{250000, 500000}, []int{0, 1000000})
@@ -123,7 +129,7 @@ func TestBound(t *testing.T) {
 		{chainOf(1, half, half, half), fracs("7/524280"), api.OK},
 		{chainOf(1, double), nil, api.ErrForm}, {chainOf(1, curves(root)), nil, api.ErrForm}, {chainOf(1, curves(jump)), nil, api.ErrForm}, {chainOf(1, pick), nil, api.ErrForm},
 		{chainOf(2, half), nil, api.ErrChain}, {chainOf(1, matrix([]int{1}, []int{999937}), powers()), nil, api.ErrBig},
-		{chainOf(1, half, curves(jump)), nil, api.ErrForm},
+		{chainOf(1, half, curves(jump)), nil, api.ErrForm}, {chainOf(1, steep()), nil, api.ErrBig}, {chainOf(1, steep(), curves(jump)), nil, api.ErrForm}, {chainOf(1, steep(), curves(tent)), nil, api.ErrBig},
 	} {
 		if got, e := Bound(x.c); !slices.Equal(got, x.want) || e != x.e {
 			t.Errorf("%d: %v, %d", i, got, e)

@@ -52,7 +52,7 @@ func TestCheck(t *testing.T) {
 			t.Errorf("Same of %d", i)
 		}
 	}
-	for i, x := range []api.Tag{text, numbers, long, {Sign: "09az", Kind: api.TaText, Text: " ~"}, {Sign: "desc", Kind: api.TaText, Text: strings.Repeat("x", 200)}, {Sign: "abc1", Kind: api.TaNumbers, Numbers: []int{-1 << 31, 1<<31 - 1, 0, 0, 0, 0, 0, 0, 0, 0, 0, 0}}, {Sign: "abc1", Kind: api.TaChain, Chain: chainOf(4)}} {
+	for i, x := range []api.Tag{text, numbers, long, {Sign: "09az", Kind: api.TaText, Text: " ~"}, {Sign: "desc", Kind: api.TaText, Text: "x"}, {Sign: "abc1", Kind: api.TaNumbers, Numbers: []int{0}}, {Sign: "desc", Kind: api.TaText, Text: strings.Repeat("x", 200)}, {Sign: "abc1", Kind: api.TaNumbers, Numbers: []int{-1 << 31, 1<<31 - 1, 0, 0, 0, 0, 0, 0, 0, 0, 0, 0}}, {Sign: "abc1", Kind: api.TaChain, Chain: chainOf(4)}} {
 		if e := Check(x); e != api.OK {
 			t.Errorf("Check of %d: %d", i, e)
 		}
@@ -95,6 +95,20 @@ func TestLong(t *testing.T) {
 	spread := api.Element{Kind: api.ElMatrix, Rows: [][]int{{1}, {1}, {1}, {1}}, Offset: make([]int, 4)}
 	four := api.Tag{Sign: "fwd0", Kind: api.TaChain, Chain: chainOf(4, big, spread, big, spread, big, spread, big)}
 	if s, e := Bytes(four); s != "" || e != api.ErrLong {
+		t.Errorf("Bytes: %d octets, %d", len(s), e)
+	}
+	last := api.Element{Kind: api.ElGrid, Grid: api.Grid{Size: []int{9, 8, 8, 7}, Out: 1, Data: make([]int, 4032)}}
+	copies := func(more ...api.Op) api.Element {
+		in := api.Op{Code: api.PuIn}
+		return api.Element{Kind: api.ElProgram, In: 1, Out: 4, Program: append([]api.Op{in, in, in, in}, more...)}
+	}
+	neg := api.Op{Code: api.PuNeg}
+	full := api.Tag{Sign: "fwd0", Kind: api.TaChain, Chain: chainOf(4, big, spread, big, copies(), big, copies(neg, neg), last)}
+	if s, e := Bytes(full); len(s) != api.MaxProfile || e != api.OK {
+		t.Errorf("Bytes: %d octets, %d", len(s), e)
+	}
+	full.Chain.Elements[5] = copies(neg, neg, neg)
+	if s, e := Bytes(full); s != "" || e != api.ErrLong {
 		t.Errorf("Bytes: %d octets, %d", len(s), e)
 	}
 	three := api.Tag{Sign: "fwd0", Kind: api.TaChain, Chain: chainOf(4, big, spread, big, spread, big)}

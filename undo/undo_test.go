@@ -262,7 +262,7 @@ func TestBack(t *testing.T) {
 		{chainOf(1, program), fracs("1"), "", api.ErrForm}, {chainOf(1, curves(root)), fracs("1"), "", api.ErrForm}, {chainOf(1, curves(square)), fracs("1"), "", api.ErrForm}, {chainOf(1, curves(jump)), fracs("1"), "", api.ErrForm},
 		{chainOf(1, matrixOf([]int{0, 0}, []int{1}, []int{2})), fracs("1 1"), "", api.ErrForm}, {chainOf(1, program, half), []api.Frac{{}}, "", api.ErrFrac}, {chainOf(1, program, half), nil, "", api.ErrArg}, {chainOf(1, half), make([]api.Frac, 2), "", api.ErrArg},
 		{chainOf(2, half), nil, "", api.ErrChain}, {chainOf(2), fracs("1/3 1"), "1/3 1", api.OK}, {chainOf(2), fracs("1/3 2"), "", api.ErrNone},
-		{chainOf(1, singular), fracs("0"), "", api.ErrZero}, {chainOf(1, singular, curves(tent)), fracs("0"), "", api.ErrFail}, {chainOf(1, curves(tent), singular), fracs("0"), "", api.ErrZero},
+		{chainOf(1, singular), fracs("0"), "", api.ErrZero}, {chainOf(1, singular, curves(tent)), fracs("0"), "", api.ErrFail}, {chainOf(1, curves(tent), singular), fracs("0"), "", api.ErrZero}, {chainOf(1, curves(root), singular), fracs("0"), "", api.ErrForm}, {chainOf(1, program, singular), fracs("0"), "", api.ErrForm},
 		{chainOf(1, seventh), []api.Frac{tiny}, "", api.ErrBig}, {chainOf(1, curves(table(0, 7))), []api.Frac{tiny}, "", api.ErrBig},
 		{chainOf(1, curves(table(65535, 0)), half, half), fracs("1/5"), "1/5", api.OK},
 		{chainOf(2, matrixOf([]int{0, 0}, []int{0, 1000000}, []int{1000000, 0}), curves(same, table(65535, 0))), fracs("1/5 1/3"), "2/3 1/5", api.OK},

@@ -12,7 +12,7 @@ import (
 var (
 	longest = api.Whole(strings.Repeat("9", api.MaxWhole))
 	tooLong = api.Whole("1" + strings.Repeat("0", api.MaxWhole))
-	wrong   = []api.Whole{"", "-", "-0", "00", "017", "-017", "+1", " 1", "1 ", "1.0", "1e3", "a", "१", tooLong, "-" + tooLong, api.Whole(strings.Repeat("1", 100000))}
+	wrong   = []api.Whole{"", "-", "-0", "00", "017", "-017", "+1", " 1", "1 ", "1.0", "1e3", "a", "1:", "/1", "-:", "१", tooLong, "-" + tooLong, api.Whole(strings.Repeat("1", 100000))}
 )
 
 // P1.1
