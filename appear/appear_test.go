@@ -7,9 +7,11 @@ import (
 	"strings"
 	"testing"
 
+	"verdigris/adapt"
 	"verdigris/api"
 	"verdigris/band"
 	"verdigris/frac"
+	"verdigris/matrix"
 	"verdigris/view"
 )
 
@@ -146,6 +148,46 @@ func TestNeutral(t *testing.T) {
 	if got, e := Bands(example, api.Trib{wide, wide, wide}); got != (api.Look{}) || e != api.ErrZero {
 		t.Errorf("Bands: %v, %d", got, e)
 	}
+}
+
+// P29.1, P29.2: two equal responses are not enough for a neutral colour.
+func TestAlmostNeutral(t *testing.T) {
+	for i, xyz := range []api.Tri{tri("2.4471 2.6452 1"), tri("2.782 1.7891 1"), tri("1 2.191 1.3349")} {
+		var points api.Trib
+		for k, a := range xyz {
+			points[k], _ = band.Around(a)
+		}
+		got, e := Appear(example, xyz)
+		onBands, e2 := Bands(example, points)
+		equal := 0
+		for k := range 3 {
+			if got.Rgb[k] == got.Rgb[(k+1)%3] {
+				equal++
+			}
+		}
+		if e != api.OK || e2 != api.OK || equal != 1 || got.C.Lo <= 0 || onBands.C.Lo <= 0 {
+			t.Errorf("%d: %v, %d; %v, %d", i, got, e, onBands, e2)
+		}
+	}
+	// Bands of several numbers with the same responses: all from 0 to the same number.
+	cone, _ := adapt.Cone(api.AdEven)
+	inverse, _ := matrix.Inverse(api.Mat{{cone[0][0], cone[0][1], fr("0")}, {fr("0"), cone[1][1], cone[1][2]}, {cone[2][0], fr("0"), cone[2][2]}})
+	tops, _ := matrix.Apply(inverse, []api.Frac{fr("1/2"), fr("1/2"), fr("1/2")})
+	var near [3]int
+	for i, a := range tops {
+		near[i], _ = frac.Near(a, one)
+	}
+	for n := range 1000 {
+		xyz := api.Trib{{Hi: near[0] + n/100 - 5}, {Hi: near[1] + n/10%10 - 5}, {Hi: near[2] + n%10 - 5}}
+		l, e := matrix.Bands(cone, xyz[:])
+		if e == api.OK && l[0].Hi == l[1].Hi && l[1].Hi == l[2].Hi && l[0].Lo <= 0 && l[1].Lo <= 0 && l[2].Lo <= 0 {
+			if got, e := Bands(example, xyz); got != (api.Look{}) || e != api.ErrZero {
+				t.Errorf("Bands(%v): %v, %d", xyz, got, e)
+			}
+			return
+		}
+	}
+	t.Error("there are no such bands")
 }
 
 // P29.1, P29.2

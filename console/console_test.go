@@ -223,7 +223,13 @@ func clipped(t *testing.T, m api.Mesh, p [3]int) string {
 
 // P45.2, P45.3: what octets reports is a document of the same profile.
 func TestOctets(t *testing.T) {
-	for _, p := range []api.Profile{gray(), colored()} {
+	all := []api.Profile{gray(), colored()}
+	for n := range 32 { // one of them has a multiple of 32 octets
+		p := gray()
+		p.Name = strings.Repeat("x", n+1)
+		all = append(all, p)
+	}
+	for _, p := range all {
 		report := Run(with("octets", p))
 		lines := strings.Split(strings.TrimSuffix(report, "\n"), "\n")
 		for i, l := range lines {

@@ -80,7 +80,7 @@ func TestCovers(t *testing.T) {
 		e          api.Errno
 	}{
 		{l, 5, 3, api.OK}, {tiles(0, 0, 5, 3), 5, 3, api.OK}, {tiles(1, 0, 4, 3, 0, 0, 1, 3), 5, 3, api.OK},
-		{l[:5], 5, 3, api.ErrTiles}, {twice, 5, 3, api.ErrTiles}, {append(slices.Clone(l), l[0]), 5, 3, api.ErrTiles}, {l, 5, 4, api.ErrTiles}, {l, 4, 3, api.ErrTiles}, {nil, 1, 1, api.ErrTiles}, {tiles(0, 0, 6, 3), 5, 3, api.ErrTiles}, {tiles(-1, 0, 6, 3), 5, 3, api.ErrTiles}, {tiles(0, 0, 5, 0, 0, 0, 5, 3), 5, 3, api.ErrTiles}, {tiles(0, 0, 0, 3, 0, 0, 5, 3), 5, 3, api.ErrTiles}, {tiles(5, 0, 1, 1, 0, 0, 5, 3), 5, 3, api.ErrTiles}, {tiles(0, 1<<63-1, 1, 1<<63-1), 5, 3, api.ErrTiles}, {tiles(0, 0, 1<<63-1, 1<<63-1), 5, 3, api.ErrTiles},
+		{l[:5], 5, 3, api.ErrTiles}, {twice, 5, 3, api.ErrTiles}, {append(slices.Clone(l), l[0]), 5, 3, api.ErrTiles}, {l, 5, 4, api.ErrTiles}, {l, 4, 3, api.ErrTiles}, {nil, 1, 1, api.ErrTiles}, {tiles(0, 0, 6, 3), 5, 3, api.ErrTiles}, {tiles(0, 0, 1, 3, 1, 0, 5, 3), 5, 3, api.ErrTiles}, {tiles(0, 0, 5, 1, 0, 1, 5, 3), 5, 3, api.ErrTiles}, {tiles(0, 0, 5, 1, 0, 1, 5, 2), 5, 3, api.OK}, {tiles(-1, 0, 6, 3), 5, 3, api.ErrTiles}, {tiles(0, 0, 5, 0, 0, 0, 5, 3), 5, 3, api.ErrTiles}, {tiles(0, 0, 0, 3, 0, 0, 5, 3), 5, 3, api.ErrTiles}, {tiles(5, 0, 1, 1, 0, 0, 5, 3), 5, 3, api.ErrTiles}, {tiles(0, 1<<63-1, 1, 1<<63-1), 5, 3, api.ErrTiles}, {tiles(0, 0, 1<<63-1, 1<<63-1), 5, 3, api.ErrTiles},
 		{nil, 0, 1, api.ErrArg}, {nil, 1, 65, api.ErrArg}, {make([]api.Tile, 257), 65, 1, api.ErrArg}, {make([]api.Tile, 257), 64, 1, api.ErrLong}, {make([]api.Tile, 256), 64, 1, api.ErrTiles},
 	} {
 		if e := Covers(x.l, x.wide, x.high); e != x.e {
@@ -134,7 +134,7 @@ func TestErrors(t *testing.T) {
 	}{
 		{broken, api.Chain{}, 7, 1, nil, api.ErrImage, api.ErrImage}, {example, api.Chain{}, 7, 1, nil, api.ErrChain, api.ErrChain}, {example, chainOf(1), 8, 1, nil, api.ErrArg, api.ErrTiles}, {example, chainOf(1), 8, 1, make([]api.Tile, 257), api.ErrArg, api.ErrLong}, {example, chainOf(1), 8, 1, whole, api.ErrArg, api.ErrArg},
 		{example, chainOf(3), 7, 1, whole, api.ErrArg, api.ErrArg}, {example, chainOf(3), 8, 3, whole, api.ErrArg, api.ErrArg}, {wide, spread, 8, 1, tiles(0, 0, 64, 64), api.ErrArg, api.ErrArg}, {example, double, 7, 1, whole, api.ErrArg, api.ErrArg},
-		{example, double, 8, 1, whole, api.ErrForm, api.ErrForm}, {example, root, 8, 1, whole, api.ErrForm, api.ErrForm}, {example, powers, 8, 1, whole, api.ErrBig, api.ErrBig},
+		{example, double, 8, 1, whole, api.ErrForm, api.ErrForm}, {example, chainOf(1, matrix([]int{0}, []int{2000000})), 8, 1, whole, api.ErrArg, api.ErrArg}, {example, root, 8, 1, whole, api.ErrForm, api.ErrForm}, {example, powers, 8, 1, whole, api.ErrBig, api.ErrBig},
 	} {
 		if got, e := Apply(x.m, x.c, x.bits, false, x.pad); got != (api.Image{}) || e != x.apply {
 			t.Errorf("Apply %d: %v, %d", i, got, e)

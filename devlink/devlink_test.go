@@ -143,6 +143,12 @@ func TestMakeErrors(t *testing.T) {
 			t.Errorf("%d: %v, %d", i, got, e)
 		}
 	}
+	if got, e := Make(chainOf(1), 9, rules); len(got.Grid.Data) != 9 || e != api.OK {
+		t.Errorf("Make: %d entries, %d", len(got.Grid.Data), e)
+	}
+	if got, e := Make(chainOf(4, matrix([]int{0}, []int{250000, 250000, 250000, 250000})), 8, rules); len(got.Grid.Data) != api.MaxData || e != api.OK {
+		t.Errorf("Make: %d entries, %d", len(got.Grid.Data), e)
+	}
 	if got, e := Make(chainOf(4), 5, rules); len(got.Grid.Data) != 2500 || e != api.OK {
 		t.Errorf("Make: %d entries, %d", len(got.Grid.Data), e)
 	}

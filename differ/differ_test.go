@@ -147,8 +147,17 @@ func TestOpenHues(t *testing.T) {
 			t.Errorf("Distance(%d): %v, %d", kind, got, e)
 		}
 	}
+	// A hue at the end of the range of one form of T: both forms are joined.
+	rim, e := Distance(api.DiCmc, tri("50 96.59258263 -25.88190451"), tri("50 96.59258263 5"), one, one)
+	beside, e2 := Distance(api.DiCmc, tri("50 96.5925827 -25.8819045"), tri("50 96.5925827 5"), one, one)
+	if e != api.OK || e2 != api.OK || rim.Hi-rim.Lo < unit1/1000 || beside.Hi-beside.Lo > 1000 || rim.Lo > beside.Hi+100000 || rim.Hi < beside.Lo-100000 {
+		t.Errorf("Distance: %v, beside it %v", rim, beside)
+	}
 	// Opposite hues have none between them.
 	got, e := Distance(api.DiHue, tri("50 30 0"), tri("50 -30 0"), one, one)
+	if dark, e := Distance(api.DiCmc, tri("16 0 0"), tri("15 0 0"), one, one); e != api.OK || math.Abs(float64(dark.Lo)/unit1-(1+0.01765*16)/(0.040975*16)) > 1e-9 {
+		t.Errorf("Distance: %v, %d", dark, e)
+	}
 	low, high := 60/(1+0.45*1.93), 60/(1+0.45*0.07)
 	if e != api.OK || float64(got.Lo)/unit1 > low+1e-6 || float64(got.Lo)/unit1 < low-1e-6 || float64(got.Hi)/unit1 > high+1e-6 || float64(got.Hi)/unit1 < high-1e-6 {
 		t.Errorf("Distance: %v, %d; want %v to %v", got, e, low, high)
@@ -180,6 +189,20 @@ func TestErrors(t *testing.T) {
 		}
 		if got, e := Within(x.kind, x.a, x.b, x.l, x.c, x.limit); got != 0 || e != x.e {
 			t.Errorf("Within %d: %v, %d", i, got, e)
+		}
+	}
+	for i := range 3 {
+		if got, e := Distance(1, with(a, i, api.Frac{}), b, one, one); got != (api.Band{}) || e != api.ErrFrac {
+			t.Errorf("Distance without number %d: %v, %d", i, got, e)
+		}
+		if got, e := Distance(1, a, with(b, i, api.Frac{}), one, one); got != (api.Band{}) || e != api.ErrFrac {
+			t.Errorf("Distance without number %d: %v, %d", i, got, e)
+		}
+	}
+	// A hue takes the band of the whole Lab, a distance without hues does not.
+	for kind, want := range map[int]api.Errno{api.DiOld: api.OK, api.DiNew: api.OK, api.DiCmc: api.ErrBig, api.DiHue: api.ErrBig} {
+		if got, e := Distance(kind, tri("10000000 3 4"), tri("10000000 0 5"), one, one); e != want || (e == api.OK) != (got.Lo > 0) {
+			t.Errorf("Distance(%d): %v, %d", kind, got, e)
 		}
 	}
 	for i, x := range []struct {

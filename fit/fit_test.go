@@ -71,7 +71,7 @@ func TestCheck(t *testing.T) {
 		}
 	}
 	for i, m := range []api.Model{{}, {Kind: 4, In: 1, Rows: rows(2)}, {Kind: 0, In: 1, Rows: rows(2)}, {Kind: api.MoMatrix, In: 0, Rows: rows(1)}, {Kind: api.MoMatrix, In: 5, Rows: rows(6)}, {Kind: api.MoMatrix, In: -1, Rows: rows(0)}, {Kind: api.MoProducts, In: 4, Rows: rows(16)}, {Kind: api.MoMatrix, In: 1, Rows: rows(1)}, {Kind: api.MoSquares, In: 2, Rows: rows(3)},
-		{Kind: api.MoMatrix, In: 1, Rows: [3][]api.Frac{zeros, zeros, zeros[:1]}}, {Kind: api.MoMatrix, In: 1, Rows: [3][]api.Frac{zeros, zeros, {fr("1"), {N: "2", D: "2"}}}}} {
+		{Kind: api.MoMatrix, In: 1, Rows: [3][]api.Frac{zeros, zeros, zeros[:1]}}, {Kind: api.MoMatrix, In: 1, Rows: [3][]api.Frac{zeros, zeros, {fr("1"), {N: "2", D: "2"}}}}, {Kind: api.MoMatrix, In: 1, Rows: [3][]api.Frac{{{}, fr("1")}, zeros, zeros}}} {
 		if e := Check(m); e != api.ErrModel {
 			t.Errorf("Check of %d: %d", i, e)
 		}
@@ -210,6 +210,9 @@ func TestElement(t *testing.T) {
 		if got, e := Element(x.m); !element.Same(got, api.Element{}) || e != x.e {
 			t.Errorf("Element %d: %v, %d", i, got, e)
 		}
+	}
+	if x, e := Element(api.Model{Kind: api.MoMatrix, In: 1, Rows: [3][]api.Frac{fracs0("0 100000"), zeros, zeros}}); e != api.OK || x.Rows[0][0] != 1000000000 {
+		t.Errorf("Element: %v, %d", x, e)
 	}
 	if x, e := Element(api.Model{Kind: api.MoMatrix, In: 1, Rows: [3][]api.Frac{fracs0("0 -100000"), zeros, zeros}}); e != api.OK || x.Rows[0][0] != -1000000000 {
 		t.Errorf("Element: %v, %d", x, e)

@@ -156,6 +156,15 @@ func TestCutAndPaste(t *testing.T) {
 			t.Errorf("Cut(%v): %v, %d", p, m, e)
 		}
 	}
+	tall := api.Image{Wide: 1, High: 3, Channels: 1, Bits: 8, Pad: 1, Octets: "abc"}
+	for _, p := range [][4]int{{0, 1, 1, 3}, {0, 2, 1, 2}, {0, 3, 1, 1}} {
+		if m, e := Cut(tall, p[0], p[1], p[2], p[3]); m != (api.Image{}) || e != api.ErrArg {
+			t.Errorf("Cut(%v): %v, %d", p, m, e)
+		}
+	}
+	if m, e := Cut(tall, 0, 1, 1, 2); m.Octets != "bc" || e != api.OK {
+		t.Errorf("Cut: %v, %d", m, e)
+	}
 	part := api.Image{Wide: 1, High: 1, Channels: 3, Bits: 8, Planar: true, Pad: 2, Octets: "\x07\x00\x08\x00\x09\x00"}
 	if m, e := Paste(example, part, 1, 0); m != with(func(m *api.Image) { m.Octets = "\x01\x02\x03\x07\x08\x09\x00\x00" }) || e != api.OK {
 		t.Errorf("Paste: %v, %d", m, e)

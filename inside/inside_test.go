@@ -155,6 +155,21 @@ func TestRay(t *testing.T) {
 	}
 }
 
+// P36.2: rays just beside the faces of a mesh of the least size.
+func TestSmallest(t *testing.T) {
+	m := api.Mesh{Points: [][3]int{{0, 0, 0}, {1, 0, 0}, {0, 1, 0}, {0, 0, 1}}, Faces: tetrahedron().Faces}
+	for i, x := range []struct {
+		from, towards [3]int
+		e             api.Errno
+	}{
+		{[3]int{-5, -1, 0}, [3]int{5, -1, 0}, api.ErrNone}, {[3]int{-1, -5, 0}, [3]int{-1, 5, 0}, api.ErrNone}, {[3]int{-5, 7, 0}, [3]int{5, -3, 0}, api.ErrNone}, {[3]int{-5, 0, 0}, [3]int{5, 0, 0}, api.OK}, {[3]int{0, -5, 0}, [3]int{0, 5, 0}, api.OK}, {[3]int{-4, 5, 0}, [3]int{5, -4, 0}, api.OK}, {[3]int{-5, 0, -1}, [3]int{5, 0, -1}, api.ErrNone}, {[3]int{-5, 1, 0}, [3]int{5, 1, 0}, api.OK}, {[3]int{-5, 2, 0}, [3]int{5, 2, 0}, api.ErrNone},
+	} {
+		if got, face, e := Ray(m, x.from, x.towards, true); e != x.e {
+			t.Errorf("%d: %v, %d, %d", i, got, face, e)
+		}
+	}
+}
+
 func rat(n int) *big.Rat { return big.NewRat(int64(n), 1) }
 
 // liesIn reports whether the point from + t (towards - from) lies in a triangle.

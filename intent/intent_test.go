@@ -73,6 +73,45 @@ func TestAxis(t *testing.T) {
 	}
 }
 
+// P38.1: a gamut that meets the neutral axis between two integers has no range.
+func TestThin(t *testing.T) {
+	r := rand.New(rand.NewSource(3))
+	found := 0
+	for range 3000 {
+		m := api.Mesh{Faces: [][3]int{{0, 2, 1}, {0, 1, 3}, {0, 3, 2}, {1, 2, 3}}}
+		for range 4 {
+			m.Points = append(m.Points, [3]int{50000 + r.Intn(3), r.Intn(9) - 4, r.Intn(9) - 4})
+		}
+		first, _, e := inside.Ray(m, [3]int{}, [3]int{100000, 0, 0}, false)
+		last, _, e2 := inside.Ray(m, [3]int{100000, 0, 0}, [3]int{}, false)
+		if e != api.OK || e2 != api.OK {
+			continue
+		}
+		scale := big.NewRat(100000, 1)
+		low := new(big.Rat).Mul(value(first), scale)
+		high := new(big.Rat).Mul(new(big.Rat).Sub(big.NewRat(1, 1), value(last)), scale)
+		floor := func(x *big.Rat) int64 { return new(big.Int).Div(x.Num(), x.Denom()).Int64() }
+		ceil := -floor(new(big.Rat).Neg(low))
+		gotLow, gotHigh, e := Axis(m)
+		if ceil <= floor(high) {
+			if int64(gotLow) != ceil || int64(gotHigh) != floor(high) || e != api.OK {
+				t.Fatalf("Axis(%v): %d, %d, %d", m, gotLow, gotHigh, e)
+			}
+			continue
+		}
+		found++
+		if gotLow != 0 || gotHigh != 0 || e != api.ErrNone {
+			t.Fatalf("Axis(%v): %d, %d, %d", m, gotLow, gotHigh, e)
+		}
+		if got, e := Anchor(m, [3]int{50000, 0, 0}); got != [3]int{} || e != api.ErrNone {
+			t.Fatalf("Anchor(%v): %v, %d", m, got, e)
+		}
+	}
+	if found == 0 {
+		t.Error("no gamut is thin")
+	}
+}
+
 // P38.1
 func TestAnchor(t *testing.T) {
 	far := [3]int{0, 0, 200001}
@@ -82,7 +121,7 @@ func TestAnchor(t *testing.T) {
 		e       api.Errno
 	}{
 		{example, [3]int{90000, 5, 5}, [3]int{65000, 0, 0}, api.OK}, {example, [3]int{51000, 0, 0}, [3]int{51000, 0, 0}, api.OK}, {example, [3]int{-5, 90000, 0}, [3]int{35000, 0, 0}, api.OK}, {example, [3]int{65000, 1, 0}, [3]int{65000, 0, 0}, api.OK}, {example, [3]int{34999, 1, 0}, [3]int{35000, 0, 0}, api.OK}, {example, [3]int{65001, 1, 0}, [3]int{65000, 0, 0}, api.OK},
-		{octahedron(50000, 5, 30000), [3]int{0, 0, 0}, [3]int{49997, 0, 0}, api.OK}, {octahedron(50000, 5, 30000), [3]int{60000, 0, 0}, [3]int{50003, 0, 0}, api.OK},
+		{example, [3]int{200000, -200000, 200000}, [3]int{65000, 0, 0}, api.OK}, {example, [3]int{-200000, 200000, -200000}, [3]int{35000, 0, 0}, api.OK}, {octahedron(50000, 5, 30000), [3]int{0, 0, 0}, [3]int{49997, 0, 0}, api.OK}, {octahedron(50000, 5, 30000), [3]int{60000, 0, 0}, [3]int{50003, 0, 0}, api.OK},
 		{moved(example, 0, 30001, 0), [3]int{50000, 0, 0}, [3]int{}, api.ErrNone}, {moved(example, 0, 30000, 0), [3]int{50000, 0, 0}, [3]int{}, api.ErrNone}, {api.Mesh{}, far, [3]int{}, api.ErrMesh}, {moved(example, 0, 30001, 0), far, [3]int{}, api.ErrArg},
 	} {
 		if got, e := Anchor(x.m, x.p); got != x.want || e != x.e {

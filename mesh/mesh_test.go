@@ -1,6 +1,7 @@
 package mesh
 
 import (
+	"math"
 	"math/big"
 	"math/rand"
 	"slices"
@@ -100,6 +101,32 @@ func TestSame(t *testing.T) {
 	}
 }
 
+// ring is a torus of n times k points, as large as a mesh can be for 15 and 20.
+func ring(n, k int) api.Mesh {
+	var m api.Mesh
+	for i := range n {
+		for j := range k {
+			x, y := math.Sincos(2 * math.Pi * float64(i) / float64(n))
+			u, z := math.Sincos(2 * math.Pi * float64(j) / float64(k))
+			m.Points = append(m.Points, [3]int{int((90000 + 30000*u) * x), int((90000 + 30000*u) * y), int(30000 * z)})
+			a, b, c, d := i*k+j, (i+1)%n*k+j, (i+1)%n*k+(j+1)%k, i*k+(j+1)%k
+			m.Faces = append(m.Faces, [3]int{a, b, c}, [3]int{a, c, d})
+		}
+	}
+	return m
+}
+
+// P35.1, P35.2: a mesh of 300 points and 600 faces, with a hole.
+func TestRing(t *testing.T) {
+	m := ring(15, 20)
+	if kind, at := Flaw(m); kind != 0 || at != 0 || len(m.Points) != 300 || len(m.Faces) != 600 {
+		t.Errorf("Flaw: %d, %d", kind, at)
+	}
+	if edges, number, e := Euler(m); edges != 900 || number != 0 || e != api.OK {
+		t.Errorf("Euler: %d, %d, %d", edges, number, e)
+	}
+}
+
 // P35.2, P35.3
 func TestInvalid(t *testing.T) {
 	for i, x := range flawed() {
@@ -176,6 +203,14 @@ func TestTurnedAndMoved(t *testing.T) {
 		if got, e := Moved(m, by); !Same(got, api.Mesh{}) || e != api.ErrBig {
 			t.Errorf("Moved(%v): %v, %d", by, got, e)
 		}
+	}
+	for _, by := range [][3]int{{-399001, 0, 0}, {0, 399001, 0}, {0, 0, -200006}, {0, 0, 198996}} {
+		if got, e := Moved(moved, by); !Same(got, api.Mesh{}) || e != api.ErrBig {
+			t.Errorf("Moved(%v): %v, %d", by, got, e)
+		}
+	}
+	if got, e := Moved(moved, [3]int{-399000, 399000, 198995}); e != api.OK || got.Points[3] != [3]int{-200000, 199000, 200000} {
+		t.Errorf("Moved: %v, %d", got, e)
 	}
 	turned.Points[0][0] = 9
 	moved.Faces[0][0] = 9

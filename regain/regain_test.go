@@ -11,6 +11,7 @@ import (
 	"verdigris/appear"
 	"verdigris/band"
 	"verdigris/frac"
+	"verdigris/must"
 	"verdigris/view"
 )
 
@@ -122,6 +123,39 @@ func TestLooks(t *testing.T) {
 	}
 }
 
+// P30.1: the steps between the look and the compressed responses, in floating point.
+func TestSteps(t *testing.T) {
+	for i, v := range []api.View{example, dim, dark} {
+		d, _ := view.Derive(v)
+		j, c, x, y := 40.0, 30.0, -0.8, 0.6
+		got, e := must0(scene{d}, point(40*one), point(30*one), [2]api.Band{point(-8 * one / 10), point(6 * one / 10)})
+		middle := func(b api.Band) float64 { return (float64(b.Lo) + float64(b.Hi)) / 2 / one }
+		nc := []float64{1, 0.95, 0.8}[i]
+		h := (-0.4161468365*x - 0.9092974268*y + 3.8) / 4
+		tt := math.Pow(c/math.Sqrt(j/100), 12.0/11)
+		p := middle(d.Aw) * math.Pow(j/100, float64(d.Den)/float64(d.Num)) / middle(d.Nbb)
+		r := tt * p / (50000.0/13*nc*middle(d.Nbb)*h + tt*(671*x+6588*y)/1403)
+		for k, want := range []float64{460*p + 451*r*x + 288*r*y, 460*p - 891*r*x - 261*r*y, 460*p - 220*r*x - 6300*r*y} {
+			if want /= 1403; e != api.OK || math.Abs(middle(got[k])-want) > 2e-11*math.Abs(want) {
+				t.Errorf("%d: response %d is %v, not %v", i, k, got[k], want)
+			}
+		}
+	}
+}
+
+func must0(s scene, j, c api.Band, hue [2]api.Band) (api.Trib, api.Errno) {
+	return must.Do(func() api.Trib { return s.compressed(j, c, hue) })
+}
+
+// P30.1: hues may reach the ends of their range.
+func TestEnds(t *testing.T) {
+	for _, hue := range [][2]api.Band{{point(-one), point(0)}, {point(one), point(0)}, {point(0), point(one)}, {point(0), point(-one)}} {
+		if got, e := Regain(example, point(50*one), point(one), hue); e != api.OK || got[1].Lo <= 0 {
+			t.Errorf("Regain with %v: %v, %d", hue, got, e)
+		}
+	}
+}
+
 // P30.4: of two greys the lighter one has no smaller Y.
 func TestGreys(t *testing.T) {
 	before := point(-one)
@@ -208,6 +242,13 @@ func TestNarrowAndExpand(t *testing.T) {
 		meets := func(n int) bool {
 			b, _ := view.Compress(fl, point(n))
 			return b.Hi >= y.Lo && b.Lo <= y.Hi
+		}
+		// The ends of the compressed band of x alone are met by x.
+		alone, _ := view.Compress(fl, point(x))
+		for _, end := range []int{alone.Lo, alone.Hi} {
+			if n, e := Narrow(fl, point(end)); e != api.OK || n.Lo >= x || n.Hi <= x {
+				t.Fatalf("Narrow(%v, %d): %v, %d; not %d", fl, end, n, e, x)
+			}
 		}
 		if narrow.Lo > 0 && (meets(narrow.Lo) || !meets(narrow.Lo+1)) || meets(narrow.Hi) || !meets(narrow.Hi-1) {
 			t.Fatalf("Narrow(%v, %v): %v", fl, y, narrow)

@@ -65,6 +65,9 @@ func TestOrderAndBest(t *testing.T) {
 			t.Errorf("Best %d: %v, %d", i, got, e)
 		}
 	}
+	if l, e := Order(make([]api.Frac, 1)); l != nil || e != api.ErrFrac {
+		t.Errorf("Order: %v, %d", l, e)
+	}
 	if l, e := Order(make([]api.Frac, 41)); l != nil || e != api.ErrLong {
 		t.Errorf("Order: %v, %d", l, e)
 	}

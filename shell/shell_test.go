@@ -106,7 +106,7 @@ func TestShell(t *testing.T) {
 		g api.Grid
 		e api.Errno
 	}{
-		{api.Grid{}, api.ErrGrid}, {gridOf([]int{2, 2, 2}, func(i, j, k int) [3]int { return [3]int{} }), api.ErrForm}, {api.Grid{Size: []int{2, 2}, Out: 3, Data: make([]int, 12)}, api.ErrArg}, {api.Grid{Size: []int{2, 2, 2}, Out: 4, Data: make([]int, 32)}, api.ErrArg}, {gridOf([]int{9, 9, 9}, func(i, j, k int) [3]int { return [3]int{} }), api.ErrLong},
+		{api.Grid{}, api.ErrGrid}, {gridOf([]int{2, 2, 2}, func(i, j, k int) [3]int { return [3]int{} }), api.ErrForm}, {api.Grid{Size: []int{2, 2}, Out: 3, Data: make([]int, 12)}, api.ErrArg}, {api.Grid{Size: []int{2, 2, 2}, Out: 4, Data: make([]int, 32)}, api.ErrArg}, {api.Grid{Size: []int{9, 9, 9}, Out: 4, Data: make([]int, 2916)}, api.ErrArg}, {api.Grid{Size: []int{2, 2, 2}, Out: 2, Data: make([]int, 16)}, api.ErrArg}, {gridOf([]int{9, 9, 9}, func(i, j, k int) [3]int { return [3]int{} }), api.ErrLong},
 	} {
 		if got, e := Shell(x.g); !mesh.Same(got, api.Mesh{}) || e != x.e {
 			t.Errorf("%d: %v, %d", i, got, e)

@@ -106,7 +106,7 @@ func TestNodes(t *testing.T) {
 		{chainOf(1), chainOf(1, double), 3, tripOf(3, 0, "1", "1/2", "1"), api.OK},
 		{chainOf(1, curves(half)), chainOf(1, curves(fall)), 5, tripOf(5, 2, "1", "1/2", "0"), api.OK}, {chainOf(1), chainOf(1, curves(half)), 2, tripOf(2, 1, "0", "0", "0"), api.OK}, {chainOf(1, curves(fall)), chainOf(1, curves(half)), 2, tripOf(2, 1, "1", "1", "1"), api.OK},
 		{chainOf(2), chainOf(2, matrix([]int{0, 0}, []int{0, 1000000}, []int{1000000, 0})), 2, tripOf(4, 0, "1", "1/2", "0 1"), api.OK},
-		{chainOf(1, api.Element{}), chainOf(5), 1, bad, api.ErrChain}, {chainOf(1), chainOf(5), 1, bad, api.ErrChain}, {chainOf(1), chainOf(2), 1, bad, api.ErrForm}, {chainOf(1), chainOf(1, matrix([]int{0, 0}, []int{1}, []int{1})), 1, bad, api.ErrForm}, {chainOf(1), chainOf(1), 1, bad, api.ErrArg}, {chainOf(1), chainOf(1), 26, bad, api.ErrArg}, {chainOf(4), chainOf(4), 6, bad, api.ErrArg}, {chainOf(3), chainOf(3), 9, bad, api.ErrArg}, {chainOf(1), chainOf(1), -1 << 63, bad, api.ErrArg},
+		{chainOf(1, api.Element{}), chainOf(5), 1, bad, api.ErrChain}, {chainOf(1, api.Element{}), chainOf(2), 1, bad, api.ErrChain}, {chainOf(1), chainOf(5), 1, bad, api.ErrChain}, {chainOf(1), chainOf(2), 1, bad, api.ErrForm}, {chainOf(1), chainOf(1, matrix([]int{0, 0}, []int{1}, []int{1})), 1, bad, api.ErrForm}, {chainOf(1), chainOf(1), 1, bad, api.ErrArg}, {chainOf(1), chainOf(1), 26, bad, api.ErrArg}, {chainOf(4), chainOf(4), 6, bad, api.ErrArg}, {chainOf(3), chainOf(3), 9, bad, api.ErrArg}, {chainOf(1), chainOf(1), -1 << 63, bad, api.ErrArg},
 	} {
 		if got, e := Nodes(x.forward, x.backward, x.steps); !sameTrip(got, x.want) || e != x.e {
 			t.Errorf("%d: %v, %d", i, got, e)
@@ -173,6 +173,13 @@ func TestSeeded(t *testing.T) {
 		if got, next, e := Seeded(y.forward, y.backward, y.seed, y.count); !sameTrip(got, bad) || next != 0 || e != y.e {
 			t.Errorf("%d: %v, %d, %d", i, got, next, e)
 		}
+	}
+}
+
+// P41.3: the greatest number of colours.
+func TestMost(t *testing.T) {
+	if got, next, e := Seeded(chainOf(1), chainOf(1), 7, 50); got.Points != 50 || got.Greatest != fr("0") || next == 0 || e != api.OK {
+		t.Errorf("Seeded: %v, %d, %d", got, next, e)
 	}
 }
 

@@ -59,7 +59,7 @@ func TestCheck(t *testing.T) {
 	}{
 		{example, api.OK}, {with(example, func(v *api.View) { v.La = fr("1") }), api.OK}, {with(example, func(v *api.View) { v.La = fr("2000") }), api.OK}, {with(example, func(v *api.View) { v.Yb = fr("1") }), api.OK}, {with(example, func(v *api.View) { v.Surround = api.SuDark }), api.OK}, {with(example, func(v *api.View) { v.White = tri("2 1/2 3"); v.Yb = fr("1/2") }), api.ErrView},
 		{with(example, func(v *api.View) { v.La = fr("1/2") }), api.ErrView}, {with(example, func(v *api.View) { v.La = fr("2001") }), api.ErrView}, {with(example, func(v *api.View) { v.La = fr("-1") }), api.ErrView}, {with(example, func(v *api.View) { v.Yb = fr("2") }), api.ErrView}, {with(example, func(v *api.View) { v.Yb = fr("0") }), api.ErrView}, {with(example, func(v *api.View) { v.Yb = fr("-1") }), api.ErrView},
-		{with(example, func(v *api.View) { v.Surround = 4 }), api.ErrView}, {with(example, func(v *api.View) { v.Surround = 0 }), api.ErrView}, {with(example, func(v *api.View) { v.White = tri("9 1 1") }), api.ErrView}, {with(example, func(v *api.View) { v.White = tri("1 1 9") }), api.ErrView}, {with(example, func(v *api.View) { v.White = tri("1/100 1 1/100") }), api.ErrView},
+		{with(example, func(v *api.View) { v.Surround = 4 }), api.ErrView}, {with(example, func(v *api.View) { v.Surround = 0 }), api.ErrView}, {with(example, func(v *api.View) { v.White = tri("9 1 1") }), api.ErrView}, {with(example, func(v *api.View) { v.White = tri("17502/7502 1 1") }), api.ErrView}, {with(example, func(v *api.View) { v.White, v.Yb = tri("1 1 11/10"), fr("21/20") }), api.ErrView}, {with(example, func(v *api.View) { v.White, v.Yb = tri("1 11/10 1"), fr("21/20") }), api.OK}, {with(example, func(v *api.View) { v.White = tri("1 1 9") }), api.ErrView}, {with(example, func(v *api.View) { v.White = tri("1/100 1 1/100") }), api.ErrView},
 		{api.View{}, api.ErrFrac}, {with(example, func(v *api.View) { v.White = tri("1 0 1"); v.La = api.Frac{} }), api.ErrArg}, {with(example, func(v *api.View) { v.La = api.Frac{}; v.Surround = 4 }), api.ErrFrac}, {with(example, func(v *api.View) { v.Yb = api.Frac{N: "2", D: "2"}; v.La = fr("1/2") }), api.ErrFrac},
 		{with(example, func(v *api.View) { v.White[0] = long; v.La = fr("1/2") }), api.ErrBig}, {with(example, func(v *api.View) { v.White[0] = long; v.La = api.Frac{} }), api.ErrFrac},
 	} {
@@ -118,6 +118,11 @@ func TestDerive(t *testing.T) {
 			t.Fatalf("Derive(%v): Aw %v, not %v", v, d.Aw, (2*c[0]+c[1]+c[2]/20)*nbb)
 		}
 	}
+	dim := example
+	dim.La = fr("1")
+	if d, e := Derive(dim); e != api.OK || math.Abs(float64(d.Fl.Lo)/one-(1.0/1296+0.1*math.Pow(1-1.0/1296, 2)*math.Cbrt(5))) > 1e-10 {
+		t.Errorf("Derive: %v, %d", d.Fl, e)
+	}
 	d, e := Derive(example)
 	if d.F != fr("1") || d.Nc != fr("1") || d.C != fr("0.69") || d.Num != 4 || d.Den != 3 || d.N != fr("1/5") || d.D != fr("587/702") || d.Gain != tri("1 1 1") || e != api.OK {
 		t.Errorf("Derive: %v, %d", d, e)
@@ -127,6 +132,9 @@ func TestDerive(t *testing.T) {
 // P28.3
 func TestCompress(t *testing.T) {
 	if b, e := Compress(point(one), point(0)); b != point(0) || e != api.OK {
+		t.Errorf("Compress: %v, %d", b, e)
+	}
+	if b, e := Compress(point(0), point(one)); b != point(0) || e != api.OK {
 		t.Errorf("Compress: %v, %d", b, e)
 	}
 	b, e := Compress(point(one), point(one))
@@ -167,7 +175,7 @@ func TestAchromatic(t *testing.T) {
 		rgb api.Trib
 		e   api.Errno
 	}{
-		{bad, rgb, api.ErrBand}, {point(one), api.Trib{bad, {}, {}}, api.ErrBand}, {point(one), api.Trib{{}, bad, {}}, api.ErrBand}, {point(one), api.Trib{{}, {}, bad}, api.ErrBand}, {point(one), api.Trib{point(api.MaxBand), {}, {}}, api.ErrBig}, {point(2 * one), api.Trib{{}, point(api.MaxBand), {}}, api.ErrBig},
+		{bad, rgb, api.ErrBand}, {point(one), api.Trib{bad, {}, {}}, api.ErrBand}, {point(one), api.Trib{{}, bad, {}}, api.ErrBand}, {point(one), api.Trib{{}, {}, bad}, api.ErrBand}, {point(one), api.Trib{point(api.MaxBand), {}, {}}, api.ErrBig}, {point(one), api.Trib{point(api.MaxBand), {}, bad}, api.ErrBand}, {point(2 * one), api.Trib{{}, point(api.MaxBand), {}}, api.ErrBig},
 	} {
 		if b, e := Achromatic(api.Derived{Nbb: x.nbb}, x.rgb); b != (api.Band{}) || e != x.e {
 			t.Errorf("Achromatic %d: %v, %d", i, b, e)
