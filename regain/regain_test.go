@@ -140,6 +140,12 @@ func TestSteps(t *testing.T) {
 				t.Errorf("%d: response %d is %v, not %v", i, k, got[k], want)
 			}
 		}
+		// The differences of the responses, in which the lightness is left out, tell of the numbers of h.
+		for k, want := range []float64{(451+891)*r*x + (288+261)*r*y, (451+220)*r*x + (288+6300)*r*y} {
+			if want /= 1403; math.Abs(middle(got[0])-middle(got[k+1])-want) > 1e-11 {
+				t.Errorf("%d: response %d is %v less than the first one, not %v", i, k+1, middle(got[0])-middle(got[k+1]), want)
+			}
+		}
 	}
 }
 
