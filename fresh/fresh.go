@@ -45,10 +45,3 @@ func Chain(c api.Chain) api.Chain {
 	c.Elements = List(c.Elements, Element)
 	return c
 }
-
-// Tag returns a copy of a tag.
-func Tag(t api.Tag) api.Tag {
-	t.Numbers = slices.Clone(t.Numbers)
-	t.Chain = Chain(t.Chain)
-	return t
-}

@@ -71,11 +71,6 @@ func (a Ratio) Turned() Ratio {
 	return Ratio{a.Signed.Turned(), a.Below}
 }
 
-// Size returns a without its sign.
-func (a Ratio) Size() Ratio {
-	return Ratio{digits.Plain(a.Natural), a.Below}
-}
-
 // Plus returns a + b. The common divisor of the numbers below is taken out first, so that what is left to be shortened is short.
 func (a Ratio) Plus(b Ratio) Ratio {
 	common := a.Below.Gcd(b.Below)

@@ -58,7 +58,6 @@ func TestAgainstBig(t *testing.T) {
 		if y.Sign() != 0 {
 			same(t, "Over", a.Over(b), new(big.Rat).Quo(x, y))
 		}
-		same(t, "Size", a.Size(), new(big.Rat).Abs(x))
 		if a.Order(b) != x.Cmp(y) || a.Order(a) != 0 {
 			t.Fatalf("Order of %s, %s", x, y)
 		}
